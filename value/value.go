@@ -164,12 +164,16 @@ func Copy(v api.Value) api.Value {
 
 // Get a field of a record.
 func Get(v api.Value, name string) (api.Value, bool) {
-	for i := range v.F {
-		if v.F[i].Name == name {
-			return Copy(v.F[i].V), true
-		}
+	i := Find(v.F, name)
+	if i < 0 {
+		return api.Value{}, false
 	}
-	return api.Value{}, false
+	return Copy(v.F[i].V), true
+}
+
+// Find the first field of that name: where it is, or -1. (For those who look at it alone, and want no copy.)
+func Find(l []api.Field, name string) int {
+	return slices.IndexFunc(l, func(f api.Field) bool { return f.Name == name })
 }
 
 // Of fields in any order: the record; an error, if it may not be.
