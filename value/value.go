@@ -27,6 +27,19 @@ func Name(s string) bool {
 	return true
 }
 
+// Dotted: is it 1 to most bytes, each of them a letter, a digit or '.'?
+func Dotted(s string, most int) bool {
+	if len(s) == 0 || len(s) > most {
+		return false
+	}
+	for i := range len(s) {
+		if !Letter(s[i]) && !Digit(s[i]) && s[i] != '.' {
+			return false
+		}
+	}
+	return true
+}
+
 // Check a value.
 func Check(v api.Value) error {
 	if roomLeft(v, 1, api.MaxParts) < 0 {

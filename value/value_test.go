@@ -58,6 +58,20 @@ func TestName(t *testing.T) {
 	}
 }
 
+// of names of files, and tokens
+func TestDotted(t *testing.T) {
+	for _, s := range []string{"a", "z", "0", "9", ".", "a.b", "state.web", "..", "0a.9"} {
+		if !value.Dotted(s, 9) || !value.Dotted(s, len(s)) || value.Dotted(s, len(s)-1) {
+			t.Errorf("Dotted(%q, 9), (%q, %d), (%q, %d) = %v, %v, %v", s, s, len(s), s, len(s)-1, value.Dotted(s, 9), value.Dotted(s, len(s)), value.Dotted(s, len(s)-1))
+		}
+	}
+	for _, s := range []string{"", "A", "Z", "`", "{", "/", ":", "-", "a b", "a,b", "é", "a\n", "\x00", "a\xff", "abcdefghij"} {
+		if value.Dotted(s, 9) {
+			t.Errorf("Dotted(%q, 9) = true", s)
+		}
+	}
+}
+
 // A2
 func TestCheckGood(t *testing.T) {
 	cases := []api.Value{
