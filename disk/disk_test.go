@@ -148,6 +148,20 @@ func TestListRises(t *testing.T) {
 	}
 }
 
+// What stands behind a text in files' names, if it is a name; rising.
+func TestBehind(t *testing.T) {
+	d := with(t, "s.b", "", "s.a", "", "s.a0", "", "s.", "", "s.0a", "", "s.a.b", "", "s.abcdefghijklm", "", "xs.a", "", "s", "", "sa", "", "a", "")
+	for ahead, want := range map[string][]string{"s.": {"a", "a0", "b"}, "s": {"a"}, "": {"a", "s", "sa"}, "t.": nil, "s.a.": {"b"}, "\x00": nil} {
+		if l, err := d.Behind(ahead); !slices.Equal(l, want) || err != nil {
+			t.Errorf("Behind(%q) = %q, %v, want %q", ahead, l, err, want)
+		}
+	}
+	fell(t, d)
+	if l, err := d.Behind("s."); len(l) != 0 || err != api.ErrDown {
+		t.Errorf("Behind of a disk that is down = %q, %v", l, err)
+	}
+}
+
 // deed on a disk that has the file a ("1"), with the error that is wanted.
 type deed struct {
 	what string

@@ -122,6 +122,15 @@ func TestOwnerWrong(t *testing.T) {
 }
 
 // J1
+func TestIsOwner(t *testing.T) {
+	for n, want := range map[int]bool{math.MinInt: false, -1: false, 0: true, 1: true, api.MaxOwners - 1: true, api.MaxOwners: false, math.MaxInt: false} {
+		if got := locks.IsOwner(n); got != want {
+			t.Errorf("IsOwner(%d) = %v", n, got)
+		}
+	}
+}
+
+// J1
 func TestAll(t *testing.T) {
 	d := disk.New()
 	check := func(want ...string) {

@@ -9,8 +9,14 @@ import (
 // draft: the file that is being saved, whosever it will be. It is no stack's, for those begin otherwise; one that a fall left there is written over.
 const draft = "draft"
 
+// ahead of a stack's name in that of its state's file.
+const ahead = "state."
+
 // fileOf the stack of that name.
-func fileOf(name string) string { return "state." + name }
+func fileOf(name string) string { return ahead + name }
+
+// All stacks whose state was ever saved, rising.
+func All(d *disk.Disk) ([]string, error) { return d.Behind(ahead) }
 
 // Load the state of a stack; one that is not there is empty.
 func Load(d *disk.Disk, name string) (api.State, error) {

@@ -87,6 +87,13 @@ func TestManyStacks(t *testing.T) {
 		if l := files(t, d); len(l) != len(all) {
 			t.Errorf("files: %q", l)
 		}
+		if l, err := state.All(d); !slices.Equal(l, slices.Sorted(slices.Values(all))) || err != nil {
+			t.Errorf("All = %q, %v", l, err)
+		}
+	}
+	fell(t, d)
+	if l, err := state.All(d); len(l) != 0 || err != api.ErrDown {
+		t.Errorf("All of a disk that is down = %q, %v", l, err)
 	}
 }
 
