@@ -32,25 +32,20 @@ func linesOf(s api.State) string {
 	line := func(words ...string) { b.WriteString(strings.Join(words, " ") + "\n") }
 	line(serialWord, strconv.Itoa(s.Serial))
 	for _, h := range s.Held {
-		line(heldWord, heldText(h))
+		line(heldWord, HeldText(h))
 	}
 	for _, x := range s.Intents {
-		line(intentWord, strconv.Itoa(x.Op), x.Token, heldText(x.Held))
+		line(intentWord, strconv.Itoa(x.Op), x.Token, HeldText(x.Held))
 	}
 	for _, f := range s.Outs {
-		line(outWord, f.Name, valueText(f.V))
+		line(outWord, f.Name, value.Told(f.V))
 	}
 	return b.String()
 }
 
-func heldText(h api.Held) string {
-	return h.Kind + " " + h.Name + " " + strconv.Itoa(h.ID) + " " + valueText(h.Attrs)
-}
-
-// valueText of a value that was checked.
-func valueText(v api.Value) string {
-	s, _ := value.Text(v)
-	return s
+// HeldText of what is held, or would be: it was checked.
+func HeldText(h api.Held) string {
+	return h.Kind + " " + h.Name + " " + strconv.Itoa(h.ID) + " " + value.Told(h.Attrs)
 }
 
 // sumLine behind those lines.

@@ -40,6 +40,12 @@ func Text(v api.Value) (string, error) {
 	return textOf(v), nil
 }
 
+// Told: the text of a value that was checked, so that there is one.
+func Told(v api.Value) string {
+	s, _ := Text(v)
+	return s
+}
+
 // textOf a value that was checked.
 func textOf(v api.Value) string {
 	switch v.Kind {
